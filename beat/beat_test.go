@@ -12,14 +12,13 @@ import (
 	"bellwether/bound"
 	"bellwether/conf"
 	"bellwether/pipe"
+	"bellwether/samples"
 )
 
 // sized is a plain configuration of n nodes, f of which may be faulty, with delay d, and a period that is so much above the least one.
 func sized(n, f, d, more int) api.Conf {
-	c := api.Conf{N: n, F: f, D: d, Period: 6*(f+1)*d + 1 + more, Rate: 64, Drift: 1, Offset: 64, Slot: 190, Mod: 10, Fresh: 3}
-	for slot := range n {
-		c.Table = append(c.Table, slot)
-	}
+	c := samples.Sized(n, f, d)
+	c.Period = 6*(f+1)*d + 1 + more
 	return c
 }
 
@@ -33,31 +32,6 @@ func confs() []api.Conf {
 		}
 	}
 	return out
-}
-
-// wrongConfs are configurations that are not plain.
-func wrongConfs() []api.Conf {
-	out := []api.Conf{{}, {N: math.MaxInt, F: math.MaxInt, D: math.MaxInt, Period: math.MaxInt}, {N: math.MinInt, F: math.MinInt, D: math.MinInt, Period: math.MinInt}, {N: 4, F: 1, D: 1, Period: 20}}
-	for _, turn := range []func(c *api.Conf){
-		func(c *api.Conf) { c.F = 2 },
-		func(c *api.Conf) { c.F = -1 },
-		func(c *api.Conf) { c.N = 14 },
-		func(c *api.Conf) { c.D = 0 },
-		func(c *api.Conf) { c.D = 5 },
-		func(c *api.Conf) { c.Period = 12 },
-		func(c *api.Conf) { c.Period = 401 },
-		func(c *api.Conf) { c.Fresh = 0 },
-		func(c *api.Conf) { c.Table = c.Table[1:] },
-	} {
-		c := sized(4, 1, 1, 7)
-		turn(&c)
-		out = append(out, c)
-	}
-	return out
-}
-
-func lengthOf(c api.Conf) int {
-	return 3 * (c.F + 1) * c.D
 }
 
 // sinces are numbers of ticks, those around each edge among them, and those that are none.
@@ -75,7 +49,7 @@ func regulars() []int {
 
 // bitOf is Bit once more, straight from the chapter's words.
 func bitOf(c api.Conf, since int) int {
-	if since == c.Period-lengthOf(c) || since >= c.Period {
+	if since == c.Period-samples.Length(c) || since >= c.Period {
 		return 1
 	}
 	return 0
@@ -161,14 +135,7 @@ func TestNextAsTold(t *testing.T) {
 
 // mixed is a text of n bytes, codes most of them.
 func mixed(source *rand.Rand, n int) string {
-	out := make([]byte, n)
-	for i := range out {
-		out[i] = "0011222345"[source.Intn(10)]
-		if source.Intn(12) == 0 {
-			out[i] = byte(source.Intn(256))
-		}
-	}
-	return string(out)
+	return samples.Text(source.Intn, n, "0011222345")
 }
 
 func wantStep(t *testing.T, c api.Conf, codes string, since, regular int, votes []string, want string, s, r int, pulse bool) {
@@ -201,14 +168,14 @@ func TestStepAsTold(t *testing.T) {
 	for _, c := range confs() {
 		all := sinces(c)
 		for range 60 {
-			codes := mixed(source, lengthOf(c)+source.Intn(12)/11)
+			codes := mixed(source, samples.Length(c)+source.Intn(12)/11)
 			votes := make([]string, source.Intn(c.N+3))
 			for i := range votes {
 				votes[i] = mixed(source, source.Intn(3*(c.F+1)+3))
 			}
 			since, regular := all[source.Intn(len(all))], source.Intn(5)
 			if source.Intn(3) == 0 {
-				since = c.Period - 1 - source.Intn(2)*lengthOf(c)
+				since = c.Period - 1 - source.Intn(2)*samples.Length(c)
 			}
 			moved, end := pipe.Move(c, codes, votes...)
 			s, r := nextOf(c, since, regular, end == 1)
@@ -223,7 +190,7 @@ func TestStepAsTold(t *testing.T) {
 
 // P18.1 to P18.3: of what is not plain all are empty, 0 or false.
 func TestNotPlain(t *testing.T) {
-	for _, c := range wrongConfs() {
+	for _, c := range samples.Wrong() {
 		if conf.Plain(c) == api.OK {
 			t.Fatalf("%+v is plain", c)
 		}
@@ -303,7 +270,7 @@ func TestAloneTicks(t *testing.T) {
 
 // aloneOf is Alone once more, straight from the chapter's words: ends stand at their ticks.
 func aloneOf(c api.Conf, since int, pending string, ticks int) string {
-	length := lengthOf(c)
+	length := samples.Length(c)
 	ends := make([]int, ticks+length)
 	for i := range min(length, len(pending), ticks) {
 		if pending[i] == '1' {
@@ -325,7 +292,7 @@ func TestAloneAsTold(t *testing.T) {
 	for _, c := range confs() {
 		all := sinces(c)
 		for range 40 {
-			since, pending, ticks := all[source.Intn(len(all))], mixed(source, source.Intn(lengthOf(c)+9)), source.Intn(500)
+			since, pending, ticks := all[source.Intn(len(all))], mixed(source, source.Intn(samples.Length(c)+9)), source.Intn(500)
 			wantAlone(t, c, since, pending, ticks, aloneOf(c, since, pending, ticks))
 		}
 	}
@@ -348,21 +315,21 @@ func wantRegular(t *testing.T, c api.Conf, digits string, from int, of string) {
 func TestAloneSettles(t *testing.T) {
 	for _, c := range []api.Conf{sized(4, 0, 1, 0), sized(4, 0, 1, 5), sized(4, 1, 1, 0), sized(4, 1, 1, 7), sized(4, 0, 2, 0), sized(7, 2, 1, 0)} {
 		for since := -1; since <= c.Period+1; since++ {
-			for n := range 1 << lengthOf(c) {
-				pending := make([]byte, lengthOf(c))
+			for n := range 1 << samples.Length(c) {
+				pending := make([]byte, samples.Length(c))
 				for i := range pending {
 					pending[i] = byte('0' + n>>i&1)
 				}
 				digits := beat.Alone(c, since, string(pending), 4*c.Period)
-				wantRegular(t, c, digits, c.Period+2*lengthOf(c), string(pending))
+				wantRegular(t, c, digits, c.Period+2*samples.Length(c), string(pending))
 			}
 		}
 	}
 	source := rand.New(rand.NewSource(184))
 	for _, c := range confs() {
 		for range 50 {
-			digits := beat.Alone(c, source.Intn(c.Period+1), mixed(source, lengthOf(c)), 4*c.Period)
-			wantRegular(t, c, digits, c.Period+2*lengthOf(c), "by chance")
+			digits := beat.Alone(c, source.Intn(c.Period+1), mixed(source, samples.Length(c)), 4*c.Period)
+			wantRegular(t, c, digits, c.Period+2*samples.Length(c), "by chance")
 		}
 	}
 }
@@ -382,7 +349,7 @@ type cluster struct {
 func begun(c api.Conf, source *rand.Rand, faulty []int) *cluster {
 	k := &cluster{Conf: c, faulty: faulty}
 	for range c.N {
-		k.pipes = append(k.pipes, mixed(source, lengthOf(c)))
+		k.pipes = append(k.pipes, mixed(source, samples.Length(c)))
 		k.since = append(k.since, source.Intn(c.Period+1))
 		k.regular = append(k.regular, source.Intn(4)-1)
 	}
@@ -471,7 +438,7 @@ func TestClusterSettles(t *testing.T) {
 	source := rand.New(rand.NewSource(185))
 	for _, c := range []api.Conf{sized(4, 1, 1, 0), sized(4, 1, 1, 7), sized(4, 1, 2, 0), sized(5, 1, 3, 4), sized(7, 2, 1, 0), sized(7, 2, 2, 3), sized(4, 0, 4, 0), sized(13, 4, 1, 0)} {
 		settle := bound.Settle(c)
-		if settle != 1+4*lengthOf(c)+2*c.Period {
+		if settle != 1+4*samples.Length(c)+2*c.Period {
 			t.Fatal("Settle:", settle)
 		}
 		kings := []int{0, 1, 2, 3}

@@ -11,62 +11,12 @@ import (
 	"bellwether/conf"
 	"bellwether/king"
 	"bellwether/pipe"
+	"bellwether/samples"
 )
-
-// sized is a plain configuration of n nodes, f of which may be faulty, with delay d.
-func sized(n, f, d int) api.Conf {
-	c := api.Conf{N: n, F: f, D: d, Period: api.MaxPeriod, Rate: 64, Offset: 64, Slot: 190, Mod: 10, Fresh: 3}
-	for slot := range n {
-		c.Table = append(c.Table, slot)
-	}
-	return c
-}
-
-// confs are plain configurations of each F and D that there can be, with few nodes and with many.
-func confs() []api.Conf {
-	var out []api.Conf
-	for f := range api.MaxFaulty + 1 {
-		for d := 1; d <= api.MaxDelay; d++ {
-			out = append(out, sized(max(api.MinNodes, 3*f+1), f, d), sized(api.MaxNodes, f, d))
-		}
-	}
-	return out
-}
-
-// wrongConfs are configurations that are not plain.
-func wrongConfs() []api.Conf {
-	out := []api.Conf{{}, {N: math.MaxInt, F: math.MaxInt, D: math.MaxInt}, {N: math.MinInt, F: math.MinInt, D: math.MinInt}, {N: 4, F: 1, D: 1}}
-	for _, turn := range []func(c *api.Conf){
-		func(c *api.Conf) { c.F = 2 },
-		func(c *api.Conf) { c.F = -1 },
-		func(c *api.Conf) { c.N = 14 },
-		func(c *api.Conf) { c.D = 0 },
-		func(c *api.Conf) { c.D = 5 },
-		func(c *api.Conf) { c.Period = 12 },
-		func(c *api.Conf) { c.Fresh = 0 },
-		func(c *api.Conf) { c.Table = c.Table[1:] },
-	} {
-		c := sized(4, 1, 1)
-		turn(&c)
-		out = append(out, c)
-	}
-	return out
-}
-
-func lengthOf(c api.Conf) int {
-	return 3 * (c.F + 1) * c.D
-}
 
 // mixed is a text of n bytes, codes most of them.
 func mixed(source *rand.Rand, n int) string {
-	out := make([]byte, n)
-	for i := range out {
-		out[i] = "0011222345"[source.Intn(10)]
-		if source.Intn(12) == 0 {
-			out[i] = byte(source.Intn(256))
-		}
-	}
-	return string(out)
+	return samples.Text(source.Intn, n, "0011222345")
 }
 
 // mixedVotes are so many texts of up to that many bytes; half of the time nearly all are the same.
@@ -83,7 +33,7 @@ func mixedVotes(source *rand.Rand, n, most int) []string {
 
 // wrongLengths are texts that have one byte too few or too many, and others that are no pipe's.
 func wrongLengths(c api.Conf) []string {
-	n := lengthOf(c)
+	n := samples.Length(c)
 	return []string{"", "1", strings.Repeat("4", n-1), strings.Repeat("4", n+1), strings.Repeat("1", 2*n), strings.Repeat("é", n), strings.Repeat("1", 100000)}
 }
 
@@ -96,7 +46,7 @@ func wantMove(t *testing.T, c api.Conf, codes string, votes []string, want strin
 
 // The chapter's example.
 func TestExample(t *testing.T) {
-	c := sized(4, 1, 1)
+	c := samples.Sized(4, 1, 1)
 	votes := slices.Repeat([]string{"111111"}, 4)
 	now, end := pipe.Begin(c, pipe.Blank(c), 1), 0
 	for range 6 {
@@ -109,8 +59,8 @@ func TestExample(t *testing.T) {
 
 // P17.1
 func TestBlank(t *testing.T) {
-	for _, c := range confs() {
-		if got := pipe.Blank(c); got != strings.Repeat("0", lengthOf(c)) {
+	for _, c := range samples.Confs() {
+		if got := pipe.Blank(c); got != strings.Repeat("0", samples.Length(c)) {
 			t.Errorf("F %d, D %d: %q", c.F, c.D, got)
 		}
 	}
@@ -118,10 +68,10 @@ func TestBlank(t *testing.T) {
 
 // P17.1: each exchange is told by the one instance whose age is x D, and by no other; any byte that is no code is told as 2.
 func TestTell(t *testing.T) {
-	for _, c := range confs() {
-		for place := range lengthOf(c) {
+	for _, c := range samples.Confs() {
+		for place := range samples.Length(c) {
 			for code, value := range map[byte]byte{'0': '0', '1': '1', '2': '2', '3': '0', '4': '1', '5': '2', '6': '2', '/': '2', 0: '2', 1: '2', 'x': '2', 200: '2', 255: '2'} {
-				codes := []byte(strings.Repeat("1", lengthOf(c)))
+				codes := []byte(strings.Repeat("1", samples.Length(c)))
 				codes[place] = code
 				want := []byte(strings.Repeat("1", 3*(c.F+1)))
 				if place%c.D == 0 {
@@ -133,7 +83,7 @@ func TestTell(t *testing.T) {
 			}
 		}
 	}
-	if got := pipe.Tell(sized(4, 1, 2), "012345012345"); got != "021021" {
+	if got := pipe.Tell(samples.Sized(4, 1, 2), "012345012345"); got != "021021" {
 		t.Error("by hand:", got)
 	}
 }
@@ -141,13 +91,13 @@ func TestTell(t *testing.T) {
 // P17.1: the code of Start of bit, and nothing else is changed.
 func TestBegin(t *testing.T) {
 	source := rand.New(rand.NewSource(171))
-	for _, c := range confs() {
+	for _, c := range samples.Confs() {
 		for _, bit := range []int{0, 1, 2, 3, 4, 5, -1, '1', 257, math.MaxInt, math.MinInt} {
 			want := "0"
 			if bit == 1 {
 				want = "1"
 			}
-			codes := mixed(source, lengthOf(c))
+			codes := mixed(source, samples.Length(c))
 			if got := pipe.Begin(c, codes, bit); got != want+codes[1:] {
 				t.Errorf("F %d, D %d: Begin(%q, %d): %q", c.F, c.D, codes, bit, got)
 			}
@@ -157,9 +107,9 @@ func TestBegin(t *testing.T) {
 
 // P17.1, P17.2: a pipe that has not just so many bytes counts as blank.
 func TestWrongLengths(t *testing.T) {
-	for _, c := range confs() {
+	for _, c := range samples.Confs() {
 		votes := slices.Repeat([]string{strings.Repeat("1", 3*(c.F+1))}, c.N)
-		blank := strings.Repeat("0", lengthOf(c))
+		blank := strings.Repeat("0", samples.Length(c))
 		want, end := moved(c, blank, votes)
 		for _, codes := range wrongLengths(c) {
 			if got := pipe.Tell(c, codes); got != strings.Repeat("0", 3*(c.F+1)) {
@@ -179,7 +129,7 @@ func TestWrongLengths(t *testing.T) {
 // P17.1, P17.2: of what is not plain all are empty, or 0.
 func TestNotPlain(t *testing.T) {
 	votes := slices.Repeat([]string{"111111111111111"}, 13)
-	for _, c := range wrongConfs() {
+	for _, c := range samples.Wrong() {
 		if conf.Plain(c) == api.OK {
 			t.Fatalf("%+v is plain", c)
 		}
@@ -201,7 +151,7 @@ func TestNotPlain(t *testing.T) {
 
 // P17.2, reckoned by hand. With D 2 those at odd ages move on as they are, whatever bytes they are.
 func TestMoveExamples(t *testing.T) {
-	one, two := sized(4, 1, 1), sized(4, 1, 2)
+	one, two := samples.Sized(4, 1, 1), samples.Sized(4, 1, 2)
 	ones := []string{"111111", "111111", "111111"}
 	for _, x := range []struct {
 		c     api.Conf
@@ -253,7 +203,7 @@ func heard(c api.Conf, x int, code byte, votes []string) byte {
 // moved is Move once more, straight from the chapter's words. It trusts that c is plain, and that the pipe has its length.
 func moved(c api.Conf, codes string, votes []string) (string, int) {
 	out := []byte{'0'}
-	for age := 1; age <= lengthOf(c); age++ {
+	for age := 1; age <= samples.Length(c); age++ {
 		code := codes[age-1]
 		if age%c.D == 0 {
 			code = heard(c, age/c.D-1, code, votes)
@@ -261,36 +211,36 @@ func moved(c api.Conf, codes string, votes []string) (string, int) {
 		out = append(out, code)
 	}
 	end := 0
-	if last := out[lengthOf(c)]; last == '1' || last == '4' {
+	if last := out[samples.Length(c)]; last == '1' || last == '4' {
 		end = 1
 	}
-	return string(out[:lengthOf(c)]), end
+	return string(out[:samples.Length(c)]), end
 }
 
 // P17.2: texts of any bytes and lengths, more votes than nodes and fewer, kings that are not among them.
 func TestMoveAsTold(t *testing.T) {
 	source := rand.New(rand.NewSource(172))
 	ends := 0
-	for _, c := range confs() {
+	for _, c := range samples.Confs() {
 		for range 60 {
-			codes := mixed(source, lengthOf(c))
+			codes := mixed(source, samples.Length(c))
 			votes := mixedVotes(source, source.Intn(c.N+4), 3*(c.F+1)+2)
 			want, end := moved(c, codes, votes)
 			wantMove(t, c, codes, votes, want, end)
 			ends += end
 		}
 	}
-	if all := 60 * len(confs()); ends < all/10 || ends > all-all/10 {
+	if all := 60 * len(samples.Confs()); ends < all/10 || ends > all-all/10 {
 		t.Error("hardly any other end:", ends)
 	}
 }
 
 // P17.2: each byte as a code and as a vote, at each place.
 func TestMoveOfEachByte(t *testing.T) {
-	for _, c := range []api.Conf{sized(4, 1, 1), sized(4, 0, 3)} {
+	for _, c := range []api.Conf{samples.Sized(4, 1, 1), samples.Sized(4, 0, 3)} {
 		for b := range 256 {
 			some := string([]byte{byte(b)})
-			codes, votes := strings.Repeat(some, lengthOf(c)), slices.Repeat([]string{strings.Repeat(some, 3*(c.F+1))}, c.N)
+			codes, votes := strings.Repeat(some, samples.Length(c)), slices.Repeat([]string{strings.Repeat(some, 3*(c.F+1))}, c.N)
 			for _, list := range [][]string{nil, votes} {
 				want, end := moved(c, codes, list)
 				wantMove(t, c, codes, list, want, end)
@@ -305,10 +255,10 @@ func TestMoveOfEachByte(t *testing.T) {
 // P17.3: an instance that is followed by itself, exchange by exchange, is at its place in the pipe at each age, and ends there as it does alone, whatever others there are.
 func TestGoesOnAsAlone(t *testing.T) {
 	source := rand.New(rand.NewSource(173))
-	for _, c := range confs() {
-		now := mixed(source, lengthOf(c))
+	for _, c := range samples.Confs() {
+		now := mixed(source, samples.Length(c))
 		var alone []byte // the youngest one last
-		for tick := range 3 * lengthOf(c) {
+		for tick := range 3 * samples.Length(c) {
 			votes := mixedVotes(source, c.N, 3*(c.F+1))
 			for i := range alone {
 				if age := len(alone) - i; age%c.D == 0 {
@@ -317,7 +267,7 @@ func TestGoesOnAsAlone(t *testing.T) {
 			}
 			var end int
 			now, end = pipe.Move(c, now, votes...)
-			if len(alone) == lengthOf(c) {
+			if len(alone) == samples.Length(c) {
 				if want := int(alone[0]-'0') % 3; end != want {
 					t.Fatalf("F %d, D %d, tick %d: done with %d, alone with %d", c.F, c.D, tick, end, want)
 				}
@@ -393,7 +343,7 @@ func (k *cluster) played(begun int) []int {
 // P17.3: nodes together, of which some lie to each one otherwise: each tick's instance ends as king.Play says of it alone.
 func TestClusterAsPlayed(t *testing.T) {
 	source := rand.New(rand.NewSource(174))
-	for _, c := range []api.Conf{sized(4, 1, 1), sized(4, 1, 3), sized(7, 2, 2), sized(4, 0, 4), sized(13, 4, 1)} {
+	for _, c := range []api.Conf{samples.Sized(4, 1, 1), samples.Sized(4, 1, 3), samples.Sized(7, 2, 2), samples.Sized(4, 0, 4), samples.Sized(13, 4, 1)} {
 		table := make([]int, 4099)
 		for i := range table {
 			table[i] = source.Intn(3)
@@ -403,16 +353,16 @@ func TestClusterAsPlayed(t *testing.T) {
 			return table[(((tick*17+x)*13+from)*13+to)%len(table)]
 		}
 		seen := [2]int{}
-		for tick := range 3 * lengthOf(c) {
+		for tick := range 3 * samples.Length(c) {
 			bits := make([]int, c.N)
 			for i := range bits {
 				bits[i] = source.Intn(2)
 			}
 			ends := k.tick(tick, bits)
-			if tick < lengthOf(c) {
+			if tick < samples.Length(c) {
 				continue
 			}
-			for node, want := range k.played(tick - lengthOf(c)) {
+			for node, want := range k.played(tick - samples.Length(c)) {
 				if want >= 0 && ends[node] != want {
 					t.Fatalf("N %d, D %d, tick %d: node %d ends with %d, not %d", c.N, c.D, tick, node, ends[node], want)
 				}
@@ -429,7 +379,7 @@ func TestClusterAsPlayed(t *testing.T) {
 
 // Rules 4 to 6: no list that is handed in is changed or kept, and the same answer comes again.
 func TestListsAreNotChanged(t *testing.T) {
-	c := sized(4, 1, 2)
+	c := samples.Sized(4, 1, 2)
 	codes, votes := "012345012345", []string{"1x0", "111111", "120", "", "999999"}
 	first, end := pipe.Move(c, codes, votes[:4]...)
 	for range 3 {

@@ -8,49 +8,8 @@ import (
 	"bellwether/api"
 	"bellwether/conf"
 	"bellwether/plan"
+	"bellwether/samples"
 )
-
-// sized is a plain configuration of n nodes, f of which may be faulty, with delay d.
-func sized(n, f, d int) api.Conf {
-	c := api.Conf{N: n, F: f, D: d, Period: api.MaxPeriod, Rate: 64, Offset: 64, Slot: 190, Mod: 10, Fresh: 3}
-	for slot := range n {
-		c.Table = append(c.Table, slot)
-	}
-	return c
-}
-
-// confs are plain configurations of each F and D that there can be, with few nodes and with many.
-func confs() []api.Conf {
-	var out []api.Conf
-	for f := range api.MaxFaulty + 1 {
-		for d := 1; d <= api.MaxDelay; d++ {
-			out = append(out, sized(max(api.MinNodes, 3*f+1), f, d), sized(api.MaxNodes, f, d))
-		}
-	}
-	return out
-}
-
-// wrongConfs are configurations that are not plain.
-func wrongConfs() []api.Conf {
-	out := []api.Conf{{}, {N: math.MaxInt, F: math.MaxInt, D: math.MaxInt}, {N: math.MinInt, F: math.MinInt, D: math.MinInt}, {N: 4, F: 1, D: 1}}
-	for _, turn := range []func(c *api.Conf){
-		func(c *api.Conf) { c.F = 2 },
-		func(c *api.Conf) { c.F = -1 },
-		func(c *api.Conf) { c.N = 14 },
-		func(c *api.Conf) { c.D = 0 },
-		func(c *api.Conf) { c.D = -1 },
-		func(c *api.Conf) { c.D = 5 },
-		func(c *api.Conf) { c.Period = 12 },
-		func(c *api.Conf) { c.Fresh = 0 },
-		func(c *api.Conf) { c.Table = nil },
-		func(c *api.Conf) { c.Table = c.Table[1:] },
-	} {
-		c := sized(4, 1, 1)
-		turn(&c)
-		out = append(out, c)
-	}
-	return out
-}
 
 // wildNumbers are no ages of an exchange, and no exchanges.
 func wildNumbers() []int {
@@ -91,7 +50,7 @@ func wantAge(t *testing.T, c api.Conf, age, tells, hears int) {
 
 // P15.1: the chapter's example.
 func TestExample(t *testing.T) {
-	c := sized(4, 1, 2)
+	c := samples.Sized(4, 1, 2)
 	for age, want := range [][2]int{{0, -1}, {-1, -1}, {1, 0}, {-1, -1}, {2, 1}, {-1, -1}, {3, 2}, {-1, -1}, {4, 3}, {-1, -1}, {5, 4}, {-1, -1}, {-1, 5}, {-1, -1}, {-1, -1}} {
 		wantAge(t, c, age, want[0], want[1])
 	}
@@ -102,7 +61,7 @@ func TestExample(t *testing.T) {
 
 // P15.1: exchange x is told at x D, and heard at (x + 1) D; at any other age nothing is.
 func TestTellsAndHears(t *testing.T) {
-	for _, c := range confs() {
+	for _, c := range samples.Confs() {
 		tells, hears := slices.Repeat([]int{-1}, 200), slices.Repeat([]int{-1}, 200)
 		for x := range 3 * (c.F + 1) {
 			tells[x*c.D], hears[(x+1)*c.D] = x, x
@@ -115,7 +74,7 @@ func TestTellsAndHears(t *testing.T) {
 
 // P15.1, P8: ages below 0 and the greatest ones.
 func TestWildAges(t *testing.T) {
-	for _, c := range confs() {
+	for _, c := range samples.Confs() {
 		for _, age := range wildNumbers() {
 			wantAge(t, c, age, -1, -1)
 		}
@@ -124,7 +83,7 @@ func TestWildAges(t *testing.T) {
 
 // P15.1
 func TestKing(t *testing.T) {
-	for _, c := range confs() {
+	for _, c := range samples.Confs() {
 		for x := range 100 {
 			want := x / 3
 			if x >= 3*(c.F+1) {
@@ -144,7 +103,7 @@ func TestKing(t *testing.T) {
 
 // P15.1: all exchanges from 0 on, and no more of them once who goes through has stopped; again from the beginning each time.
 func TestAges(t *testing.T) {
-	for _, c := range confs() {
+	for _, c := range samples.Confs() {
 		var want []pair
 		for x := range 3 * (c.F + 1) {
 			want = append(want, pair{x, x * c.D})
@@ -175,7 +134,7 @@ func TestAges(t *testing.T) {
 
 // P15.1: going through it side by side with itself.
 func TestAgesWithinAges(t *testing.T) {
-	c := sized(7, 2, 3)
+	c := samples.Sized(7, 2, 3)
 	ages, n := plan.Ages(c), 0
 	for x, age := range ages {
 		inner := 0
@@ -194,7 +153,7 @@ func TestAgesWithinAges(t *testing.T) {
 
 // P15.1: of what is not plain -1, and nothing.
 func TestNotPlain(t *testing.T) {
-	for _, c := range wrongConfs() {
+	for _, c := range samples.Wrong() {
 		if conf.Plain(c) == api.OK {
 			t.Fatalf("%+v is plain", c)
 		}
@@ -212,7 +171,7 @@ func TestNotPlain(t *testing.T) {
 
 // P15.2: what is told at an age is heard D ticks later, and nothing else.
 func TestToldIsHeard(t *testing.T) {
-	for _, c := range confs() {
+	for _, c := range samples.Confs() {
 		for age := -50; age < 200; age++ {
 			if told, heard := plan.Tells(c, age), plan.Hears(c, age+c.D); told != heard {
 				t.Errorf("F %d, D %d: told at %d: %d, heard then %d", c.F, c.D, age, told, heard)
@@ -228,7 +187,7 @@ func TestToldIsHeard(t *testing.T) {
 
 // P15.2: each exchange is heard once, the last one when the instance is done; each king has three of them.
 func TestHeardOnce(t *testing.T) {
-	for _, c := range confs() {
+	for _, c := range samples.Confs() {
 		heard, kings := map[int]int{}, map[int]int{}
 		for age := -50; age < 200; age++ {
 			if x := plan.Hears(c, age); x >= 0 {
@@ -257,7 +216,7 @@ func TestHeardOnce(t *testing.T) {
 
 // Rules 4 and 5: the table is not changed, and writing into it later changes nothing.
 func TestTableIsNotKept(t *testing.T) {
-	c := sized(4, 1, 1)
+	c := samples.Sized(4, 1, 1)
 	ages := plan.Ages(c)
 	c.Table[0] = 99
 	n := 0

@@ -9,6 +9,7 @@ import (
 
 	"bellwether/api"
 	"bellwether/king"
+	"bellwether/samples"
 	"bellwether/vec"
 )
 
@@ -45,14 +46,7 @@ func allBytes() string {
 
 // mixed is a text of n bytes, digits most of them.
 func mixed(source *rand.Rand, n int) string {
-	out := make([]byte, n)
-	for i := range out {
-		out[i] = "0011222345"[source.Intn(10)]
-		if source.Intn(12) == 0 {
-			out[i] = byte(source.Intn(256))
-		}
-	}
-	return string(out)
+	return samples.Text(source.Intn, n, "0011222345")
 }
 
 func mixedVotes(source *rand.Rand, n, most int) []string {
