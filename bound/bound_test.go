@@ -8,6 +8,7 @@ import (
 	"bellwether/api"
 	"bellwether/bound"
 	"bellwether/conf"
+	"bellwether/samples"
 )
 
 // small is a configuration that is right.
@@ -209,28 +210,6 @@ func TestSettleAndAll(t *testing.T) {
 	}
 }
 
-// clocks are units a tick, within the drift: slow, fast, turning from one to the other, and by chance of a fixed seed.
-func clocks(c api.Conf) [][]int {
-	dice := rand.New(rand.NewSource(7))
-	kinds := []func(tick int) int{
-		func(int) int { return c.Rate - c.Drift },
-		func(int) int { return c.Rate + c.Drift },
-		func(int) int { return c.Rate },
-		func(tick int) int { return c.Rate + c.Drift - 2*c.Drift*(tick%2) },
-		func(tick int) int { return c.Rate - c.Drift + 2*c.Drift*(2*tick/c.Period) },
-		func(int) int { return c.Rate - c.Drift + dice.Intn(2*c.Drift+1) },
-	}
-	var out [][]int
-	for _, kind := range kinds {
-		clock := []int{0}
-		for tick := range c.Period {
-			clock = append(clock, clock[tick]+kind(tick))
-		}
-		out = append(out, clock)
-	}
-	return out
-}
-
 // wantHeard checks P4.4 for one slot and two clocks, that were begun anew at one pulse.
 func wantHeard(t *testing.T, c api.Conf, slot int, sender, other []int) {
 	t.Helper()
@@ -250,28 +229,18 @@ func wantHeard(t *testing.T, c api.Conf, slot int, sender, other []int) {
 // P4.4
 func TestSlotsAreHeardInTime(t *testing.T) {
 	dice := rand.New(rand.NewSource(1))
-	right := 0
-	for range 20000 {
-		c := small()
-		c.F, c.D = dice.Intn(2), 1+dice.Intn(4)
-		c.Rate = 1 + dice.Intn(64)
-		c.Drift = dice.Intn(1 + min(c.Rate-1, 3))
-		c.Slot = 1 + 2*c.Rate + dice.Intn(5*c.Rate)
-		c.Offset = dice.Intn(3 * c.Rate)
-		c.Period = 20 + dice.Intn(80)
-		if bound.Right(c) != api.OK {
-			continue
-		}
-		right++
-		for _, sender := range clocks(c) {
-			for _, other := range clocks(c) {
+	right := samples.Rights(dice.Intn, 2000)
+	if len(right) < 1000 {
+		t.Errorf("only %d configurations were right", len(right))
+	}
+	for _, c := range right {
+		clocks := samples.Clocks(c, dice.Intn)
+		for _, sender := range clocks {
+			for _, other := range clocks {
 				for slot := range c.Table {
 					wantHeard(t, c, slot, sender, other)
 				}
 			}
 		}
-	}
-	if right < 1000 {
-		t.Errorf("only %d configurations were right", right)
 	}
 }
