@@ -34,11 +34,6 @@ func confs() []api.Conf {
 	return append(out, samples.Rights(rand.New(rand.NewSource(241)).Intn, 40)...)
 }
 
-// wild are numbers at which a call might go wrong.
-func wild() []int {
-	return []int{math.MinInt, math.MinInt + 1, -1 << 33, -1 << 32, -1 << 31, -65537, -65536, -2, -1, 33, 64, 65535, 65536, 1 << 31, 1 << 32, 1 << 33, math.MaxInt - 1, math.MaxInt}
-}
-
 // ready is the memory of a node that takes a message of node 0 in the small configuration's slot 0.
 func ready() api.Mem {
 	return api.Mem{Clock: 223, Regular: 2, Number: 7, Heard: "0100", Seen: "0010"}
@@ -184,7 +179,7 @@ func TestNotPlain(t *testing.T) {
 		for _, f := range flaws() {
 			wantRefused(t, c, turned(f.turn), want)
 		}
-		for _, n := range append(wild(), 0) {
+		for _, n := range append(samples.Wild(), 0) {
 			wantRefused(t, c, turned(func(h *hearing) { h.p.Slot, h.from, h.m.Clock = n, n, n }), want)
 		}
 	}
@@ -193,7 +188,7 @@ func TestNotPlain(t *testing.T) {
 // P24.1, P24.2: there is no such slot.
 func TestNoSuchSlot(t *testing.T) {
 	for _, c := range confs() {
-		for _, n := range append(wild(), 0, len(c.Table)+1, len(c.Table)+2) {
+		for _, n := range append(samples.Wild(), 0, len(c.Table)+1, len(c.Table)+2) {
 			wantRefused(t, c, turned(func(h *hearing) { h.p.Slot = n }), api.ErrSlot)
 			wantRefused(t, c, turned(func(h *hearing) { h.p.Slot, h.from, h.m.Clock = n, -1, 0 }), api.ErrSlot)
 		}
@@ -212,7 +207,7 @@ func TestOwner(t *testing.T) {
 	for _, c := range confs() {
 		for k, owner := range c.Table {
 			h := inWindow(c, k)
-			for _, from := range append(wild(), 0, 1, 2, 3, 4, 12, 13) {
+			for _, from := range append(samples.Wild(), 0, 1, 2, 3, 4, 12, 13) {
 				h.from = from
 				if from == owner {
 					wantCheck(t, c, h, api.OK)
@@ -256,7 +251,7 @@ func TestLate(t *testing.T) {
 
 // P24.1, P24.2: of no other cycle; numbers are held against each other as they are.
 func TestWord(t *testing.T) {
-	for _, n := range append(wild(), 0, 1, 6, 8, 17) {
+	for _, n := range append(samples.Wild(), 0, 1, 6, 8, 17) {
 		wantRefused(t, samples.Small(), turned(func(h *hearing) { h.p.Cycle = n }), api.ErrWord)
 		wantRefused(t, samples.Small(), turned(func(h *hearing) { h.m.Number = n }), api.ErrWord)
 		wantCheck(t, samples.Small(), turned(func(h *hearing) { h.m.Number, h.p.Cycle = n, n }), api.OK)

@@ -32,19 +32,6 @@ func confs() []api.Conf {
 	return append(out, samples.Rights(rand.New(rand.NewSource(231)).Intn, 40)...)
 }
 
-// wild are numbers at which a call might go wrong.
-func wild() []int {
-	return []int{math.MinInt, math.MinInt + 1, -1 << 33, -1 << 32, -1 << 31, -65537, -65536, -2, -1, 32, 33, 63, 64, 65, 65535, 65536, 1 << 31, 1 << 32, 1 << 33, math.MaxInt - 1, math.MaxInt}
-}
-
-// wildTexts are texts of any kind: with marks and without, of runes of several bytes, and broken ones.
-func wildTexts() []string {
-	return []string{
-		"", "1", "0", "01", "10", "1111", "0000", "2", "x", "/1", ":1", "\x01", "\x001", "é1", "1é1", "\xff1", "\xc31", "１1", "١1", "1\n", " 1",
-		strings.Repeat("1", 64), strings.Repeat("01", 32) + "1", strings.Repeat("1", 65), strings.Repeat("1", 5000), strings.Repeat("é", 70),
-	}
-}
-
 // ready is the memory of a node that may send in the small configuration's slot 0.
 func ready() api.Mem {
 	return api.Mem{Clock: 159, Regular: 2, Number: 7, Line: "hello", Sent: "0100"}
@@ -167,14 +154,14 @@ func markAsTold(marks string, n int, at []int) string {
 // P23.1, P8
 func TestMarkAsTold(t *testing.T) {
 	source := rand.New(rand.NewSource(232))
-	for _, marks := range wildTexts() {
-		for _, n := range append(wild(), 0, 1, 2, 3, 4, 13) {
+	for _, marks := range samples.Marks() {
+		for _, n := range append(samples.Wild(), 0, 1, 2, 3, 4, 13) {
 			var places []int
 			for range source.Intn(6) {
 				places = append(places, source.Intn(70)-3)
 			}
 			wantMark(t, markAsTold(marks, n, places), marks, n, places...)
-			wantMark(t, markAsTold(marks, n, wild()), marks, n, wild()...)
+			wantMark(t, markAsTold(marks, n, samples.Wild()), marks, n, samples.Wild()...)
 		}
 	}
 	for range 5000 {
@@ -319,9 +306,9 @@ func TestOpenIsTheFirst(t *testing.T) {
 // P23.2, P8: no node, and the least and the greatest numbers.
 func TestOpenOfWildNumbers(t *testing.T) {
 	c := samples.Small()
-	for _, n := range wild() {
+	for _, n := range samples.Wild() {
 		wantOpen(t, c, ready(), n, -1)
-		for _, k := range wild() {
+		for _, k := range samples.Wild() {
 			m := at(func(m *api.Mem) { m.Clock, m.Anchor = n, k })
 			elapsed := (ring.Put(n) - ring.Put(k) + api.Wrap) % api.Wrap
 			wantOpen(t, c, m, 0, openAsTold(c, at(func(m *api.Mem) { m.Clock = elapsed }), 0))
@@ -344,16 +331,16 @@ func TestGuardExamples(t *testing.T) {
 	pass(at(func(m *api.Mem) { m.Line = "" }), 0, message(1, 7, ""))
 	pass(at(func(m *api.Mem) { m.Number = 0 }), 0, message(1, 0, "hello"))
 	pass(at(func(m *api.Mem) { m.Clock = 729 }), 3, message(4, 7, "hello"))
-	for _, slot := range append(wild(), 2, 3, 4, 5) {
+	for _, slot := range append(samples.Wild(), 2, 3, 4, 5, 32) {
 		stop(ready(), 0, message(slot, 7, "hello"))
 	}
-	for _, cycle := range append(wild(), 0, 1, 6, 8, 17) {
+	for _, cycle := range append(samples.Wild(), 0, 1, 6, 8, 17) {
 		stop(ready(), 0, message(1, cycle, "hello"))
 	}
-	for _, text := range append(wildTexts(), "hell", "hello ", "Hello", "hello\x00") {
+	for _, text := range append(samples.Marks(), "hell", "hello ", "Hello", "hello\x00") {
 		stop(ready(), 0, message(1, 7, text))
 	}
-	for _, me := range append(wild(), 1, 2, 3, 4) {
+	for _, me := range append(samples.Wild(), 1, 2, 3, 4) {
 		stop(ready(), me, right)
 	}
 	stop(at(func(m *api.Mem) { m.Regular = 1 }), 0, right)
@@ -408,7 +395,7 @@ func TestSendExamples(t *testing.T) {
 	wantSend(t, c, ready(), 0, message(3, 2, "other"), message(1, 7, "hello"), "1100", 1)
 	wantSend(t, c, at(func(m *api.Mem) { m.Clock = 729 }), 3, votes(), message(4, 7, "hello"), "0101", 4)
 	wantSend(t, c, at(func(m *api.Mem) { m.Line, m.Number = "", 0 }), 0, message(2, 1, "x"), message(1, 0, ""), "1100", 1)
-	for _, n := range append(wild(), 0, 250) { // whatever the number is, it is told as it is
+	for _, n := range append(samples.Wild(), 0, 250) { // whatever the number is, it is told as it is
 		m := at(func(m *api.Mem) { m.Number = n })
 		wantSend(t, c, m, 0, votes(), message(1, n, "hello"), "1100", 1)
 		wantGuard(t, c, m, 0, message(1, n, "hello"), message(1, n, "hello"))
@@ -430,7 +417,7 @@ func TestSendExamples(t *testing.T) {
 			wantSend(t, c, m, 0, p, votes(), m.Sent, 0)
 		}
 	}
-	for _, me := range append(wild(), 1, 2, 3, 4) {
+	for _, me := range append(samples.Wild(), 1, 2, 3, 4) {
 		wantSend(t, c, ready(), me, message(1, 7, "hello"), votes(), "0100", 0)
 	}
 }
@@ -460,9 +447,9 @@ func TestNotPlain(t *testing.T) {
 		if conf.Plain(c) == api.OK {
 			t.Fatalf("%v is plain", c)
 		}
-		for _, clock := range append(wild(), 0, 64, 159, 349, 539, 729) {
+		for _, clock := range append(samples.Wild(), 0, 64, 159, 349, 539, 729) {
 			m := at(func(m *api.Mem) { m.Clock = clock })
-			for _, me := range append(wild(), 0, 1, 2, 3, 4) {
+			for _, me := range append(samples.Wild(), 0, 1, 2, 3, 4) {
 				wantOpen(t, c, m, me, -1)
 				wantGuard(t, c, m, me, message(1, 7, "hello"), votes())
 				wantSend(t, c, m, me, message(1, 7, "hello"), votes(), "0100", 0)

@@ -1,4 +1,4 @@
-// Package samples has configurations, clocks and texts that the tests of many packages begin with. The program itself calls nothing of it.
+// Package samples has configurations, clocks, numbers and texts that the tests of many packages begin with. The program itself calls nothing of it.
 package samples
 
 import (
