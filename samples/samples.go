@@ -1,4 +1,4 @@
-// Package samples has configurations, clocks, numbers and texts that the tests of many packages begin with. The program itself calls nothing of it.
+// Package samples has configurations, clocks, memories, numbers and texts that the tests of many packages begin with. The program itself calls nothing of it.
 package samples
 
 import (
@@ -9,6 +9,8 @@ import (
 
 const (
 	phaseExchanges = 3
+	numberBits     = 8
+	maxRegular     = 2
 	bytes          = 256
 	seldom         = 12
 )
